@@ -11,23 +11,13 @@ import (
 
 	"entrepot/api"
 	"entrepot/items"
+	"entrepot/lists"
 )
 
 const most = api.MaxCount
 
-// list makes items of what is written as `a 3, b 2`.
 func list(s string) []api.Item {
-	var l []api.Item
-	for _, part := range strings.Split(s, ", ") {
-		if good, n, ok := strings.Cut(part, " "); ok {
-			number, err := strconv.Atoi(n)
-			if err != nil {
-				panic(err)
-			}
-			l = append(l, api.Item{Good: good, N: number})
-		}
-	}
-	return l
+	return lists.Of(s)
 }
 
 // goods are so many items, of rising goods, each of n.
