@@ -8,6 +8,7 @@ import (
 	"go/format"
 	"go/parser"
 	"go/token"
+	"maps"
 	"os"
 	"path/filepath"
 	"slices"
@@ -29,13 +30,19 @@ func layers() map[string]string {
 	}
 }
 
-// folders are the layers' packages, and those beside them.
+// beside are the packages beside the layers, and which layers these call.
+func beside() map[string]string {
+	return map[string]string{"among": "", "keys": "", "lists": "", "posts": "mail"}
+}
+
+// forTests are those of them that tests alone call.
+func forTests() []string {
+	return []string{"lists", "posts"}
+}
+
+// folders are all packages.
 func folders() []string {
-	l := []string{"keys", "lists"}
-	for layer := range layers() {
-		l = append(l, layer)
-	}
-	return l
+	return slices.Concat(slices.Collect(maps.Keys(layers())), slices.Collect(maps.Keys(beside())))
 }
 
 // library is the packages that may be imported, each with the names that may be used of it (none told: all).
@@ -97,6 +104,7 @@ func imported(s *ast.ImportSpec) string {
 // LANGUAGE 1 and 2; DOC.md, the map.
 func TestImports(t *testing.T) {
 	calls, allowed := layers(), library()
+	lowest := beside()
 	for _, s := range sources(t) {
 		layer := filepath.Base(filepath.Dir(s.path))
 		for _, i := range s.file.Imports {
@@ -106,8 +114,11 @@ func TestImports(t *testing.T) {
 				t.Errorf("%s imports %s", s.path, path)
 			}
 			_, lower := calls[own]
-			if ours && lower && !slices.Contains(strings.Fields(calls[layer]), own) {
+			if ours && lower && !slices.Contains(strings.Fields(calls[layer]+lowest[layer]), own) {
 				t.Errorf("%s calls layer %s", s.path, own)
+			}
+			if ours && slices.Contains(forTests(), own) {
+				t.Errorf("%s calls %s, which is for tests", s.path, own)
 			}
 			if i.Name != nil {
 				t.Errorf("%s gives %s another name", s.path, path)
